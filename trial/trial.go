@@ -16,7 +16,11 @@ type Barrier struct {
 
 // Some tries one order: pick(n), a number from 0 to n - 1, tells who goes on, how far, and who is woken for nothing; those who aren't at their ends then go on in turns. It answers what is wrong; "" is nothing.
 func (b Barrier) Some(pick func(n int) int) string {
-	c, err := b.machine()
+	programs, err := b.programs()
+	if err != nil {
+		return err.Error()
+	}
+	c, err := b.machine(programs)
 	if err != nil {
 		return err.Error()
 	}
@@ -42,11 +46,15 @@ type link struct {
 
 // All tries all orders: it looks for each state that can be reached, from which all go on in turns. It answers how many there are, and what is wrong; "" is nothing.
 func (b Barrier) All() (int, string) {
+	programs, err := b.programs()
+	if err != nil {
+		return 0, err.Error()
+	}
 	known := map[string]bool{}
 	links := []link{{from: -1}}
 	for k := 0; k < len(links); k++ {
 		for _, m := range b.moves() {
-			c, err := b.machine()
+			c, err := b.machine(programs)
 			if err != nil {
 				return k, err.Error()
 			}
@@ -64,8 +72,8 @@ func (b Barrier) All() (int, string) {
 	return len(links), ""
 }
 
-// machine is a new one, with a thread for each who comes.
-func (b Barrier) machine() (*core.Core, error) {
+// programs are those of all who come.
+func (b Barrier) programs() ([][]api.Ins, error) {
 	var l [][]api.Ins
 	for id := range b.N {
 		p, err := b.Code(b.N, id, b.Rounds)
@@ -74,7 +82,12 @@ func (b Barrier) machine() (*core.Core, error) {
 		}
 		l = append(l, p)
 	}
-	return core.New(l, make([]uint64, b.Cells))
+	return l, nil
+}
+
+// machine is a new one, with a thread for each who comes.
+func (b Barrier) machine(programs [][]api.Ins) (*core.Core, error) {
+	return core.New(programs, make([]uint64, b.Cells))
 }
 
 // moves are all that may be next.
