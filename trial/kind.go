@@ -1,7 +1,6 @@
 package trial
 
 import (
-	"errors"
 	"math"
 	"slices"
 
@@ -112,10 +111,7 @@ func (k Kind) code(n, id, rounds int) string {
 }
 
 // refused is whether an error is ErrRange, without a place.
-func refused(err error) bool {
-	var at *api.At
-	return api.Tell(err) == api.ErrRange && !errors.As(err, &at)
-}
+func refused(err error) bool { return api.Tell(err) == api.ErrRange && placeOf(err) == -1 }
 
 // numbers are those around all bounds, and the outermost.
 func numbers() []int {

@@ -6,7 +6,6 @@ import (
 
 	"quadrille/api"
 	"quadrille/code"
-	"quadrille/core"
 )
 
 // after is a machine's state after so many moves: a thread's letter is its step, a great one that it is woken for nothing.
@@ -20,20 +19,20 @@ func after(t *testing.T, moves string, programs ...string) string {
 		}
 		l = append(l, p)
 	}
-	c, err := core.New(l, make([]uint64, 1))
+	r, err := Machine{Programs: l, Cells: make([]uint64, 2)}.start()
 	if err != nil {
 		t.Fatal(err)
 	}
-	for _, r := range moves {
-		m := api.Move{Thread: int(r - 'a')}
-		if r < 'a' {
-			m = api.Move{Thread: int(r - 'A'), Poke: true}
+	for _, letter := range moves {
+		x := api.Move{Thread: int(letter - 'a')}
+		if letter < 'a' {
+			x = api.Move{Thread: int(letter - 'A'), Poke: true}
 		}
-		if !move(c, m) {
-			t.Fatalf("%s: no move %c", moves, r)
+		if !r.move(x) {
+			t.Fatalf("%s: no move %c", moves, letter)
 		}
 	}
-	return state(c)
+	return r.state()
 }
 
 // pair are two threads' programs, and two orders in which they go on.
@@ -48,6 +47,11 @@ func TestStatesDifferWhereWhatIsToComeMay(t *testing.T) {
 		"a cell":  {"let 3 1; store 0 3 -1; halt", "store 0 3 -1; halt", "aab", "aba"},
 		"a word":  {"say 1 0; jump 0", "halt", "aa", "aaaa"},
 		"a sleep": {"wait 0 0; halt", "halt", "a", "aA"},
+		"a swap":  {"let 3 1; swap 4 0 2 3; halt", "let 3 1; store 0 3 -1; halt", "aabb", "bbaa"},
+		// Of those who sleep at a cell, who fell asleep first is woken first.
+		"an order of sleepers":      {"wait 0 0; halt", "wait 0 0; halt", "ab", "ba"},
+		"who is poked sleeps anew":  {"wait 0 0; jump 0", "wait 0 0; halt", "ab", "abAaa"},
+		"who was woken sleeps anew": {"wait 0 0; jump 0", "wait 0 0; wake 0 1 -1; jump 0", "ab", "abBbbbaa"},
 	} {
 		if one, other := after(t, p.moves, p.a, p.b), after(t, p.others, p.a, p.b); one == other {
 			t.Errorf("%s: %s and %s are both %q", name, p.moves, p.others, one)
@@ -59,6 +63,9 @@ func TestStatesAreTheSameWhereWhatIsToComeIs(t *testing.T) {
 	for name, p := range map[string]pair{
 		"an order":      {"let 3 1; halt", "let 3 1; halt", "ab", "ba"},
 		"steps and all": {"load 1 0; jump 0", "halt", "a", "aaa"},
+		// Nobody at one cell is woken ahead of who sleeps at another one.
+		"an order of sleepers elsewhere": {"wait 0 0; halt", "wait 1 0; halt", "ab", "ba"},
+		"what was swapped long ago":      {"let 3 1; swap 4 0 2 3; load 1 0; halt", "let 3 1; swap 4 0 2 3; load 1 0; halt", "ababab", "abbaab"},
 	} {
 		if one, other := after(t, p.moves, p.a, p.b), after(t, p.others, p.a, p.b); one != other {
 			t.Errorf("%s: %s is %q, and %s is %q", name, p.moves, one, p.others, other)

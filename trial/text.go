@@ -35,14 +35,18 @@ func (k Kind) Bodies(body func(n, id int) string) string {
 
 // Has looks whether a program goes around just that body, written likewise. It answers what is wrong; "" is nothing.
 func (k Kind) Has(n, id, rounds int, body string) string {
-	text := "let 0 1; let 7" + list(rounds+1) + "; less 0 7 4; halt; say 1 0; " + body + "say 2 0; plus 0 0 1; jump 2; "
-	want, err := code.Parse(lines(text))
-	if err != nil {
-		return "no program: " + text
-	}
 	got, err := k.Code(n, id, rounds)
 	if err != nil {
 		return err.Error()
+	}
+	return differs(got, "let 0 1; let 7"+list(rounds+1)+"; less 0 7 4; halt; say 1 0; "+body+"say 2 0; plus 0 0 1; jump 2; ")
+}
+
+// differs looks whether instructions are those of a text, "; " behind each. It answers what is wrong; "" is nothing.
+func differs(got []api.Ins, text string) string {
+	want, err := code.Parse(lines(text))
+	if err != nil {
+		return "no program: " + text
 	}
 	// The text doesn't tell what an instruction has that isn't named: it is 0 in what is parsed.
 	if slices.Equal(got, want) {

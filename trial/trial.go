@@ -1,4 +1,4 @@
-// Package trial tries barriers, for the tests of the packages that make them: does nobody go ahead of all who come, and are all at their ends at last, whoever goes on when, and whoever is woken for nothing?
+// Package trial tries programs, for the tests of the packages that make them: does what they promise hold, whoever goes on when, and whoever is woken for nothing?
 package trial
 
 import (
@@ -8,151 +8,48 @@ import (
 	"quadrille/core"
 )
 
-// Barrier is what is tried: for so many, so many rounds, on so many cells, whose programs Code makes.
+// Barrier is what is tried: for so many, so many rounds, on so many cells, whose programs Code makes. Does nobody go ahead of all who come, and are all at their ends at last?
 type Barrier struct {
 	Code             func(n, id, rounds int) ([]api.Ins, error)
 	N, Rounds, Cells int
 }
 
-// Some tries one order: pick(n), a number from 0 to n - 1, tells who goes on, how far, and who is woken for nothing; those who aren't at their ends then go on in turns. It answers what is wrong; "" is nothing.
+// Some tries one order, as a Machine's does.
 func (b Barrier) Some(pick func(n int) int) string {
-	programs, err := b.programs()
+	m, err := b.machine()
 	if err != nil {
 		return err.Error()
 	}
-	c, err := b.machine(programs)
-	if err != nil {
-		return err.Error()
-	}
-	// Who is woken for nothing doesn't miss a wake: so in half of the orders nobody is.
-	pokes := pick(2) == 0
-	for range 100 * b.N {
-		if pokes && pick(8) == 0 {
-			move(c, api.Move{Thread: pick(b.N), Poke: true})
-		}
-		k := pick(b.N)
-		for range 1 + pick(9) {
-			move(c, api.Move{Thread: k})
-		}
-	}
-	return b.finish(c)
+	return m.Some(pick)
 }
 
-// link is a state, by the move that leads there from another one.
-type link struct {
-	from int
-	move api.Move
-}
-
-// All tries all orders: it looks for each state that can be reached, from which all go on in turns. It answers how many there are, and what is wrong; "" is nothing.
+// All tries all orders, as a Machine's does.
 func (b Barrier) All() (int, string) {
-	programs, err := b.programs()
+	m, err := b.machine()
 	if err != nil {
 		return 0, err.Error()
 	}
-	known := map[string]bool{}
-	links := []link{{from: -1}}
-	for k := 0; k < len(links); k++ {
-		for _, m := range b.moves() {
-			c, err := b.machine(programs)
-			if err != nil {
-				return k, err.Error()
-			}
-			play(c, links, k)
-			if !move(c, m) || known[state(c)] {
-				continue
-			}
-			known[state(c)] = true
-			links = append(links, link{k, m})
-			if wrong := b.finish(c); wrong != "" {
-				return len(links), wrong
-			}
-		}
-	}
-	return len(links), ""
+	return m.All()
 }
 
-// programs are those of all who come.
-func (b Barrier) programs() ([][]api.Ins, error) {
-	var l [][]api.Ins
+// machine has a thread for each who comes.
+func (b Barrier) machine() (Machine, error) {
+	m := Machine{Cells: make([]uint64, b.Cells), Now: nothing, Last: b.last}
 	for id := range b.N {
 		p, err := b.Code(b.N, id, b.Rounds)
 		if err != nil {
-			return nil, err
+			return Machine{}, err
 		}
-		l = append(l, p)
+		m.Programs = append(m.Programs, p)
 	}
-	return l, nil
+	return m, nil
 }
 
-// machine is a new one, with a thread for each who comes.
-func (b Barrier) machine(programs [][]api.Ins) (*core.Core, error) {
-	return core.New(programs, make([]uint64, b.Cells))
-}
+// nothing is wrong: what is said at last tells all that was said ahead.
+func nothing(c *core.Core) string { return "" }
 
-// moves are all that may be next.
-func (b Barrier) moves() []api.Move {
-	var l []api.Move
-	for k := range b.N {
-		l = append(l, api.Move{Thread: k}, api.Move{Thread: k, Poke: true})
-	}
-	return l
-}
-
-// move is whether a move can be made; it is made then.
-func move(c *core.Core, m api.Move) bool {
-	if m.Poke {
-		return c.Poke(m.Thread) == nil
-	}
-	return c.Step(m.Thread) == nil
-}
-
-// play makes the moves that lead to a state.
-func play(c *core.Core, links []link, at int) {
-	if links[at].from < 0 {
-		return
-	}
-	play(c, links, links[at].from)
-	move(c, links[at].move)
-}
-
-// state is all that what is yet to come hangs on, and where it stands in its rounds. (A barrier's thread has nothing in its registers but what it last read, and its round, which what it said tells.)
-func state(c *core.Core) string {
-	var b []byte
-	for _, x := range c.Cells() {
-		b = strconv.AppendUint(append(b, ' '), x, 10)
-	}
-	n := c.Threads()
-	said, read := make([]int, n), make([]uint64, n)
-	for _, e := range c.Events() {
-		said[e.Thread]++
-	}
-	for _, a := range c.Acts() {
-		if a.Op == api.Load || a.Op == api.Fetch {
-			read[a.Thread] = a.Old
-		}
-	}
-	for k := range n {
-		at, cell, err := c.At(k)
-		if err != nil {
-			at = -1
-		}
-		for _, x := range []int{at, cell, said[k]} {
-			b = strconv.AppendInt(append(b, ' '), int64(x), 10)
-		}
-		b = strconv.AppendUint(append(b, ' '), read[k], 10)
-	}
-	return string(b)
-}
-
-// finish lets all go on in turns, till none can, and tells what is wrong with what was done then.
-func (b Barrier) finish(c *core.Core) string {
-	for again := true; again; {
-		again = false
-		for k := range b.N {
-			again = move(c, api.Move{Thread: k}) || again
-		}
-	}
+// last tells what is wrong where nobody goes on any more.
+func (b Barrier) last(c *core.Core) string {
 	if all, _ := c.Ends(); !all {
 		return "not all are at their ends"
 	}
