@@ -7,7 +7,7 @@ import "quadrille/api"
 const (
 	Seen = 1 // what a cell was
 	Is   = 2 // what it is to be
-	done = 3 // whether it was swapped
+	Done = 3 // whether it was swapped
 )
 
 // Code is the program of these calls, one behind the other; call makes a call's instructions, the first of which has a place, or tells that there is no such call. ErrLimit: more than MaxCalls; ErrArg, with which one: there is no such call.
@@ -32,9 +32,9 @@ func Lessen(place, cell, elsewhere int) []api.Ins {
 		{Op: api.Load, A: Seen, B: cell},
 		{Op: api.Same, A: Seen, B: 0, C: elsewhere},
 		{Op: api.Plus, A: Is, B: Seen, C: -1},
-		{Op: api.Swap, A: done, B: cell, C: Seen, D: Is},
+		{Op: api.Swap, A: Done, B: cell, C: Seen, D: Is},
 		// Where somebody else changed the cell meanwhile, all is looked at again.
-		{Op: api.Same, A: done, B: 0, C: place},
+		{Op: api.Same, A: Done, B: 0, C: place},
 	}
 }
 

@@ -158,16 +158,16 @@ func (r *run) play(links []link, at int) {
 	r.move(links[at].move)
 }
 
-// state is all that what is yet to come hangs on, and where it stands. (What a thread has in its registers is told by what it last read, by whether it swapped, if that was the last thing it did to a cell, and by where it is and how much it said.)
+// state is all that what is yet to come hangs on, where it stands, and what each thread said, as Now and Last may look at that. (What a thread has in its registers is told by what it last read, by whether it swapped, if that was the last thing it did to a cell, and by where it is and how much it said.)
 func (r *run) state() string {
 	var b []byte
 	for _, x := range r.core.Cells() {
 		b = strconv.AppendUint(append(b, ' '), x, 10)
 	}
 	n := r.core.Threads()
-	said, read, swapped := make([]int, n), make([]uint64, n), make([]bool, n)
+	said, read, swapped := make([][]int, n), make([]uint64, n), make([]bool, n)
 	for _, e := range r.core.Events() {
-		said[e.Thread]++
+		said[e.Thread] = append(said[e.Thread], e.What, e.Value)
 	}
 	for _, a := range r.core.Acts() {
 		if a.Op == api.Load || a.Op == api.Fetch {
@@ -180,7 +180,8 @@ func (r *run) state() string {
 		if err != nil {
 			at = -1
 		}
-		b = append(b, list(at, cell, said[t], r.ahead(t))...)
+		b = append(b, list(at, cell, r.ahead(t), len(said[t]))...)
+		b = append(b, list(said[t]...)...)
 		b = strconv.AppendUint(append(b, ' '), read[t], 10)
 		b = strconv.AppendBool(append(b, ' '), swapped[t])
 	}

@@ -46,6 +46,8 @@ func TestStatesDifferWhereWhatIsToComeMay(t *testing.T) {
 		"a fetch": {"fetch 1 0 0; halt", "fetch 1 0 1; fetch 1 0 -1; halt", "abb", "bab"},
 		"a cell":  {"let 3 1; store 0 3 -1; halt", "store 0 3 -1; halt", "aab", "aba"},
 		"a word":  {"say 1 0; jump 0", "halt", "aa", "aaaa"},
+		"a value": {"load 1 0; say 1 1; load 1 1; halt", "fetch 1 0 1; fetch 1 0 -1; halt", "aaabb", "baaab"},
+		"a what":  {"load 1 0; same 1 1 4; say 1 2; jump 5; say 2 2; load 1 1; halt", "fetch 1 0 1; fetch 1 0 -1; halt", "aaaaabb", "baaaab"},
 		"a sleep": {"wait 0 0; halt", "halt", "a", "aA"},
 		"a swap":  {"let 3 1; swap 4 0 2 3; halt", "let 3 1; store 0 3 -1; halt", "aabb", "bbaa"},
 		// Of those who sleep at a cell, who fell asleep first is woken first.
