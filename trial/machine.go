@@ -158,34 +158,56 @@ func (r *run) play(links []link, at int) {
 	r.move(links[at].move)
 }
 
-// state is all that what is yet to come hangs on, where it stands, and what each thread said, as Now and Last may look at that. (What a thread has in its registers is told by what it last read, by whether it swapped, if that was the last thing it did to a cell, and by where it is and how much it said.)
+// state is all that what is yet to come hangs on, where it stands, and what each thread said, as Now and Last may look at that. (What a thread has in its registers is told by what it knows of the cells, and by where it is and how much it said.)
 func (r *run) state() string {
 	var b []byte
 	for _, x := range r.core.Cells() {
 		b = strconv.AppendUint(append(b, ' '), x, 10)
 	}
-	n := r.core.Threads()
-	said, read, swapped := make([][]int, n), make([]uint64, n), make([]bool, n)
+	said := make([][]int, r.core.Threads())
 	for _, e := range r.core.Events() {
 		said[e.Thread] = append(said[e.Thread], e.What, e.Value)
 	}
-	for _, a := range r.core.Acts() {
-		if a.Op == api.Load || a.Op == api.Fetch {
-			read[a.Thread] = a.Old
-		}
-		swapped[a.Thread] = a.Op == api.Swap && a.Old != a.Now
-	}
-	for t := range n {
+	for t, known := range r.knows() {
 		at, cell, err := r.core.At(t)
 		if err != nil {
 			at = -1
 		}
 		b = append(b, list(at, cell, r.ahead(t), len(said[t]))...)
 		b = append(b, list(said[t]...)...)
-		b = strconv.AppendUint(append(b, ' '), read[t], 10)
-		b = strconv.AppendBool(append(b, ' '), swapped[t])
+		b = strconv.AppendUint(append(b, ' '), known.read, 10)
+		b = strconv.AppendBool(append(b, ' '), known.swapped)
+		if known.changed {
+			b = strconv.AppendUint(append(b, ' '), known.was, 10)
+		}
 	}
 	return string(b)
+}
+
+// known is what a thread may know of the cells: what it last read; whether it swapped, if that was the last thing it did to a cell; and what was there when it last swapped, since it last said something.
+type known struct {
+	read             uint64
+	swapped, changed bool
+	was              uint64
+}
+
+// knows is what each thread may know.
+func (r *run) knows() []known {
+	l, said := make([]known, r.core.Threads()), make([]int, r.core.Threads())
+	for _, e := range r.core.Events() {
+		said[e.Thread] = e.When
+	}
+	for _, a := range r.core.Acts() {
+		k := &l[a.Thread]
+		if a.Op == api.Load || a.Op == api.Fetch {
+			k.read = a.Old
+		}
+		k.swapped = a.Op == api.Swap && a.Old != a.Now
+		if k.swapped && a.When > said[a.Thread] {
+			k.changed, k.was = true, a.Old
+		}
+	}
+	return l
 }
 
 // ahead is how many sleep at the same cell as a thread, and fell asleep ahead of it.
