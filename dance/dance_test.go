@@ -197,15 +197,7 @@ func both(t *testing.T, k, n, rounds int) (*core.Core, *core.Core) {
 }
 
 // looks is what a machine shows.
-func looks(c *core.Core) string {
-	all, stuck := c.Ends()
-	s := fmt.Sprintln(c.Threads(), c.Steps(), c.Cells(), all, stuck, c.Acts(), c.Events())
-	for t := range c.Threads() {
-		at, cell, err := c.At(t)
-		s += fmt.Sprintln(at, cell, err)
-	}
-	return s
-}
+func looks(c *core.Core) string { return fmt.Sprint(trial.Looks(c)) }
 
 func TestNewIsTheMachineOfAllPrograms(t *testing.T) {
 	random := rand.New(rand.NewSource(1))

@@ -13,6 +13,7 @@ import (
 	"quadrille/core"
 	"quadrille/fair"
 	"quadrille/plain"
+	"quadrille/trial"
 )
 
 // shows checks what something looks like.
@@ -200,15 +201,7 @@ func finish(c *core.Core) int {
 }
 
 // looks is what a machine shows.
-func looks(c *core.Core) string {
-	all, stuck := c.Ends()
-	s := fmt.Sprintln(c.Threads(), c.Steps(), c.Cells(), all, stuck, c.Acts(), c.Events())
-	for t := range c.Threads() {
-		at, cell, err := c.At(t)
-		s += fmt.Sprintln(at, cell, err)
-	}
-	return s
-}
+func looks(c *core.Core) string { return fmt.Sprint(trial.Looks(c)) }
 
 func TestFinishGoesByNumberOverAndOver(t *testing.T) {
 	c := machine(t, "say 7 0; say 8 0; halt", "halt", "say 9 0; say 9 0; say 9 0; halt")
