@@ -26,16 +26,39 @@ func Code(l []api.Call, call func(c api.Call, place int) ([]api.Ins, bool)) ([]a
 	return append(p, api.Ins{Op: api.Halt}), nil
 }
 
+// Bare is the program of calls that have no number, likewise; pieces make a call's instructions, by What.
+func Bare(l []api.Call, pieces map[int]func(place int) []api.Ins) ([]api.Ins, error) {
+	return Code(l, func(c api.Call, place int) ([]api.Ins, bool) {
+		piece, ok := pieces[c.What]
+		if !ok || c.N != 0 {
+			return nil, false
+		}
+		return piece(place), true
+	})
+}
+
 // Lessen takes one from a cell, and goes on behind its instructions, the first of which has a place; where the cell is 0 it goes on elsewhere, and takes none.
 func Lessen(place, cell, elsewhere int) []api.Ins {
-	return []api.Ins{
+	l := []api.Ins{
 		{Op: api.Load, A: Seen, B: cell},
 		{Op: api.Same, A: Seen, B: 0, C: elsewhere},
 		{Op: api.Plus, A: Is, B: Seen, C: -1},
-		{Op: api.Swap, A: Done, B: cell, C: Seen, D: Is},
-		// Where somebody else changed the cell meanwhile, all is looked at again.
-		{Op: api.Same, A: Done, B: 0, C: place},
 	}
+	// Where somebody else changed the cell meanwhile, all is looked at again.
+	return append(l, Change(cell, Seen, Is, place)...)
+}
+
+// Change lets a cell that is one register be another one; where it isn't that register it stays, and it goes on elsewhere.
+func Change(cell, from, to, elsewhere int) []api.Ins {
+	return []api.Ins{
+		{Op: api.Swap, A: Done, B: cell, C: from, D: to},
+		{Op: api.Same, A: Done, B: 0, C: elsewhere},
+	}
+}
+
+// WakeAll wakes all who sleep at a cell.
+func WakeAll(cell int) api.Ins {
+	return api.Ins{Op: api.Wake, A: cell, B: api.MaxThreads, C: -1}
 }
 
 // Tell says that a call is done, and a register, which is its answer.

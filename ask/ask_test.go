@@ -39,12 +39,46 @@ func TestCodeIsOfOneCallBehindTheOther(t *testing.T) {
 	asks(t, slices.Repeat([]api.Call{none}, 13), "", api.ErrLimit, -1)
 }
 
+func TestBareIsOfCallsWithoutANumber(t *testing.T) {
+	pieces := map[int]func(place int) []api.Ins{
+		api.Once: func(place int) []api.Ins { return []api.Ins{{Op: api.Jump, A: place + 1}} },
+		api.Down: func(int) []api.Ins { return []api.Ins{ask.WakeAll(0), ask.Tell(ask.Is)} },
+	}
+	down, one := api.Call{What: api.Down}, api.Call{What: api.Once}
+	for _, x := range []struct {
+		calls []api.Call
+		text  string
+		wrong api.Errno
+		at    int
+	}{
+		{nil, "halt\n", api.OK, -1},
+		{[]api.Call{down, one, one}, "wake 0 16 -1\nsay 3 2\njump 3\njump 4\nhalt\n", api.OK, -1},
+		{[]api.Call{one, {What: api.Await}}, "", api.ErrArg, 1},
+		{[]api.Call{{}, one}, "", api.ErrArg, 0},
+		{[]api.Call{one, down, {What: api.Down, N: 1}, {}}, "", api.ErrArg, 2},
+		{[]api.Call{{What: api.Once, N: -1}}, "", api.ErrArg, 0},
+		{make([]api.Call, 13), "", api.ErrLimit, -1},
+	} {
+		p, err := ask.Bare(x.calls, pieces)
+		if e, place := plain.Place(err); e != x.wrong || place != x.at {
+			t.Errorf("%v: got error %d at %d, want %d at %d", x.calls, e, place, x.wrong, x.at)
+		}
+		if got, _ := code.Print(p); got != x.text {
+			t.Errorf("%v: got %q, want %q", x.calls, got, x.text)
+		}
+	}
+}
+
 func TestPiecesAreOfAPlaceAndACell(t *testing.T) {
 	for want, l := range map[string][]api.Ins{
 		"load 1 0\nsame 1 0 9\nplus 2 1 -1\nswap 3 0 1 2\nsame 3 0 0\n":   ask.Lessen(0, 0, 9),
 		"load 1 7\nsame 1 0 40\nplus 2 1 -1\nswap 3 7 1 2\nsame 3 0 30\n": ask.Lessen(30, 7, 40),
-		"say 3 1\n": {ask.Tell(ask.Seen)},
-		"say 3 2\n": {ask.Tell(ask.Is)},
+		"swap 3 2 6 4\nsame 3 0 25\n":                                     ask.Change(2, 6, 4, 25),
+		"swap 3 0 1 2\nsame 3 0 7\n":                                      ask.Change(0, ask.Seen, ask.Is, 7),
+		"wake 0 16 -1\n":                                                  {ask.WakeAll(0)},
+		"wake 5 16 -1\n":                                                  {ask.WakeAll(5)},
+		"say 3 1\n":                                                       {ask.Tell(ask.Seen)},
+		"say 3 2\n":                                                       {ask.Tell(ask.Is)},
 	} {
 		if got, _ := code.Print(l); got != want {
 			t.Errorf("got %q, want %q", got, want)

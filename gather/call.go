@@ -38,7 +38,7 @@ func closeDown(place int) []api.Ins {
 		look(gone),
 		[]api.Ins{{Op: api.Plus, A: then, B: ask.Seen, C: over}},
 		change(place),
-		[]api.Ins{wakeAll()},
+		[]api.Ins{ask.WakeAll(state)},
 		answer(0, tell),
 		[]api.Ins{
 			{Op: api.Let, A: part, B: api.Over},

@@ -105,8 +105,8 @@ func (x gathered) now(c *core.Core) string {
 	if l := c.Acts(); len(l) > 0 && l[len(l)-1].When == c.Steps() {
 		return x.acted(c, l[len(l)-1])
 	}
-	if l := trial.Answers(c, x.threads); len(l) > 0 && l[len(l)-1].When == c.Steps() {
-		return x.told(c, l[len(l)-1])
+	if a, ok := trial.LastAnswer(c, x.threads); ok {
+		return x.told(c, a)
 	}
 	return ""
 }
@@ -164,23 +164,13 @@ func (x gathered) told(c *core.Core, a trial.Answer) string {
 
 // last tells what is wrong where nobody goes on any more: who isn't at its end sleeps, as what it awaits didn't come.
 func (x gathered) last(c *core.Core) string {
-	answered := make([]int, len(x.threads))
-	for _, a := range trial.Answers(c, x.threads) {
-		answered[a.Thread]++
-	}
 	state, err := packed.Of(c.Cells()[0])
 	if err != nil {
 		return "the state isn't right: " + err.Error()
 	}
-	for k, l := range x.threads {
-		_, cell, err := c.At(k)
-		switch {
-		case (err != nil) != (answered[k] == len(l)):
-			return fmt.Sprintf("thread %d is answered %d times at its end", k, answered[k])
-		case err == nil && cell != 0:
-			return fmt.Sprintf("thread %d doesn't sleep", k)
-		case err == nil && (state.Over || !awaits(c, k, l[answered[k]], state.Phase)):
-			return fmt.Sprintf("thread %d sleeps in %v", k, state)
+	for _, w := range trial.Waits(c, x.threads) {
+		if w.Cell != 0 || state.Over || !awaits(c, w.Thread, w.Call, state.Phase) {
+			return fmt.Sprintf("%v isn't at its end, in %v", w, state)
 		}
 	}
 	return ""

@@ -58,14 +58,8 @@ func look(elsewhere int) []api.Ins {
 
 // change lets the state be as it is to be; where somebody else changed it meanwhile, all is looked at again.
 func change(again int) []api.Ins {
-	return []api.Ins{
-		{Op: api.Swap, A: ask.Done, B: state, C: ask.Seen, D: then},
-		{Op: api.Same, A: ask.Done, B: 0, C: again},
-	}
+	return ask.Change(state, ask.Seen, then, again)
 }
-
-// wakeAll lets all look again who await the end of a phase.
-func wakeAll() api.Ins { return api.Ins{Op: api.Wake, A: state, B: api.MaxThreads, C: -1} }
 
 // answer lets a number be the answer, and goes on where that is told.
 func answer(n, tell int) []api.Ins {
@@ -109,7 +103,7 @@ func come(place, more, tell int) []api.Ins {
 			// Who isn't the last one changes nothing that anybody awaits.
 			{Op: api.Same, A: part, B: 1, C: wake},
 			{Op: api.Jump, A: done},
-			wakeAll(),
+			ask.WakeAll(state),
 			{Op: api.Jump, A: done},
 		},
 		answer(api.Over, tell),

@@ -77,11 +77,10 @@ func (x latched) machine(t *testing.T) trial.Machine {
 
 // now tells what is wrong with the last step: nobody who awaits is answered ahead of nought, and a Down is answered what the count was when it was done.
 func (x latched) now(c *core.Core) string {
-	l := trial.Answers(c, x.threads)
-	if len(l) == 0 || l[len(l)-1].When != c.Steps() {
+	last, ok := trial.LastAnswer(c, x.threads)
+	if !ok {
 		return ""
 	}
-	last := l[len(l)-1]
 	act := trial.LastAct(c, last.Thread)
 	switch {
 	case last.Call == await && (last.Value != 0 || c.Cells()[0] != 0):
@@ -139,10 +138,9 @@ func (x latched) last(c *core.Core) string {
 			return fmt.Sprintf("downs are answered %v", downs)
 		}
 	}
-	for k, l := range x.threads {
-		_, cell, err := c.At(k)
-		if ended := err != nil; ended != (want[k] == len(l)) || !ended && cell != 0 {
-			return fmt.Sprintf("thread %d isn't at its end, nor sleeps", k)
+	for _, w := range trial.Waits(c, x.threads) {
+		if w.Cell != 0 || w.Call == (api.Call{}) {
+			return fmt.Sprintf("%v isn't at its end, nor sleeps", w)
 		}
 	}
 	return ""

@@ -77,7 +77,6 @@ func (x shared) machine(t *testing.T) trial.Machine {
 
 // now tells what is wrong wherever it stands: never more have taken than may, and a call is answered how many may when it was done.
 func (x shared) now(c *core.Core) string {
-	l := trial.Answers(c, x.threads)
 	may := x.may
 	for _, a := range c.Acts() {
 		// A Give lets one more as soon as it tells the cell so, ahead of its answer.
@@ -85,7 +84,7 @@ func (x shared) now(c *core.Core) string {
 			may++
 		}
 	}
-	for _, a := range l {
+	for _, a := range trial.Answers(c, x.threads) {
 		if a.Call == take {
 			may--
 		}
@@ -93,10 +92,10 @@ func (x shared) now(c *core.Core) string {
 	if may < 0 {
 		return "more have taken than may"
 	}
-	if len(l) == 0 || l[len(l)-1].When != c.Steps() {
+	last, ok := trial.LastAnswer(c, x.threads)
+	if !ok {
 		return ""
 	}
-	last := l[len(l)-1]
 	act := trial.LastAct(c, last.Thread)
 	switch {
 	case last.Call == take && (act.Op != api.Swap || act.Old == 0 || act.Now != act.Old-1):
@@ -113,9 +112,8 @@ func (x shared) now(c *core.Core) string {
 
 // last tells what is wrong where nobody goes on any more: who isn't at its end sleeps, as none may.
 func (x shared) last(c *core.Core) string {
-	may, answered := x.may, make([]int, len(x.threads))
+	may := x.may
 	for _, a := range trial.Answers(c, x.threads) {
-		answered[a.Thread]++
 		if a.Call == take {
 			may--
 		} else {
@@ -125,13 +123,9 @@ func (x shared) last(c *core.Core) string {
 	if got := c.Cells()[0]; got != uint64(may) {
 		return fmt.Sprintf("%d may, not %d", got, may)
 	}
-	for k, l := range x.threads {
-		_, cell, err := c.At(k)
-		switch {
-		case answered[k] == len(l) && err == nil:
-			return fmt.Sprintf("thread %d isn't at its end", k)
-		case answered[k] < len(l) && (err != nil || cell != 0 || l[answered[k]] != take || may > 0):
-			return fmt.Sprintf("thread %d isn't answered, and %d may", k, may)
+	for _, w := range trial.Waits(c, x.threads) {
+		if w.Cell != 0 || w.Call != take || may > 0 {
+			return fmt.Sprintf("%v isn't at its end, and %d may", w, may)
 		}
 	}
 	return ""
@@ -163,16 +157,10 @@ func TestNeverMoreHaveTakenThanMayInAnyOrder(t *testing.T) {
 func TestNeverMoreHaveTakenThanMayOfMany(t *testing.T) {
 	random := rand.New(rand.NewSource(1))
 	for range 200 {
-		x := shared{may: random.Intn(5), threads: make([][]api.Call, 1+random.Intn(api.MaxThreads))}
-		// In turns each gives what it took; or anybody asks for anything.
-		turns := random.Intn(2) == 0
-		for k := range x.threads {
-			for i := range random.Intn(api.MaxCalls + 1) {
-				if !turns {
-					i = random.Intn(2)
-				}
-				x.threads[k] = append(x.threads[k], ask(take, give)[i%2])
-			}
+		// Each gives what it took; or anybody asks for anything.
+		x := shared{random.Intn(5), trial.Lists(random.Intn, ask(take, give))}
+		if random.Intn(2) == 0 {
+			x.threads = trial.Lists(random.Intn, ask(take), ask(give))
 		}
 		if wrong := x.machine(t).Some(random.Intn); wrong != "" {
 			t.Errorf("%v: %s", x, wrong)

@@ -180,15 +180,18 @@ func (r *run) state() string {
 		if known.changed {
 			b = strconv.AppendUint(append(b, ' '), known.was, 10)
 		}
+		if known.fetched {
+			b = strconv.AppendUint(append(b, " had "...), known.had, 10)
+		}
 	}
 	return string(b)
 }
 
-// known is what a thread may know of the cells: what it last read; whether it swapped, if that was the last thing it did to a cell; and what was there when it last swapped, since it last said something.
+// known is what a thread may know of the cells: what it last read; whether it swapped, if that was the last thing it did to a cell; and what was there when it last swapped, and when it last fetched, since it last said something.
 type known struct {
-	read             uint64
-	swapped, changed bool
-	was              uint64
+	read                      uint64
+	swapped, changed, fetched bool
+	was, had                  uint64
 }
 
 // knows is what each thread may know.
@@ -201,6 +204,9 @@ func (r *run) knows() []known {
 		k := &l[a.Thread]
 		if a.Op == api.Load || a.Op == api.Fetch {
 			k.read = a.Old
+		}
+		if a.Op == api.Fetch && a.When > said[a.Thread] {
+			k.fetched, k.had = true, a.Old
 		}
 		k.swapped = a.Op == api.Swap && a.Old != a.Now
 		if k.swapped && a.When > said[a.Thread] {

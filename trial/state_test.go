@@ -50,9 +50,10 @@ func TestStatesDifferWhereWhatIsToComeMay(t *testing.T) {
 		"a what":  {"load 1 0; same 1 1 4; say 1 2; jump 5; say 2 2; load 1 1; halt", "fetch 1 0 1; fetch 1 0 -1; halt", "aaaaabb", "baaaab"},
 		"a sleep": {"wait 0 0; halt", "halt", "a", "aA"},
 		"a swap":  {"let 3 1; swap 4 0 2 3; halt", "let 3 1; store 0 3 -1; halt", "aabb", "bbaa"},
-		// What was there when somebody swapped may lie in a register yet, whatever was read since; so may whether it swapped.
+		// What was there when somebody swapped may lie in a register yet, whatever was read since; so may whether it swapped, and what it fetched.
 		"what was swapped":   {"load 5 0; let 3 1; swap 4 0 5 3; load 1 0; halt", "let 3 7; store 0 3 -1; let 3 1; store 0 3 -1; halt", "bbaaabba", "aaabbbba"},
 		"whether it swapped": {"let 3 1; swap 4 0 2 3; load 1 0; halt", "let 3 1; swap 4 0 2 3; load 1 0; halt", "ababab", "abbaab"},
+		"what was fetched":   {"fetch 1 0 1; load 2 1; halt", "fetch 1 0 1; load 2 1; halt", "aabb", "bbaa"},
 		// Of those who sleep at a cell, who fell asleep first is woken first.
 		"an order of sleepers":      {"wait 0 0; halt", "wait 0 0; halt", "ab", "ba"},
 		"who is poked sleeps anew":  {"wait 0 0; jump 0", "wait 0 0; halt", "ab", "abAaa"},
@@ -71,6 +72,7 @@ func TestStatesAreTheSameWhereWhatIsToComeIs(t *testing.T) {
 		// Nobody at one cell is woken ahead of who sleeps at another one.
 		"an order of sleepers elsewhere":          {"wait 0 0; halt", "wait 1 0; halt", "ab", "ba"},
 		"what was swapped ahead of what was said": {"let 3 1; swap 4 0 2 3; say 3 7; load 1 0; halt", "let 3 1; swap 4 0 2 3; say 3 7; load 1 0; halt", "abababab", "abbaabab"},
+		"what was fetched ahead of what was said": {"fetch 1 0 1; say 3 7; load 2 1; halt", "fetch 1 0 1; say 3 7; load 2 1; halt", "aaabbb", "bbbaaa"},
 	} {
 		if one, other := after(t, p.moves, p.a, p.b), after(t, p.others, p.a, p.b); one != other {
 			t.Errorf("%s: %s is %q, and %s is %q", name, p.moves, one, p.others, other)
