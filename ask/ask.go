@@ -48,6 +48,17 @@ func Lessen(place, cell, elsewhere int) []api.Ins {
 	return append(l, Change(cell, Seen, Is, place)...)
 }
 
+// AwaitNought sleeps till a cell is 0, and goes on behind its instructions, the first of which has a place.
+func AwaitNought(place, cell int) []api.Ins {
+	return []api.Ins{
+		{Op: api.Load, A: Seen, B: cell},
+		{Op: api.Same, A: Seen, B: 0, C: place + 4},
+		{Op: api.Wait, A: cell, B: Seen},
+		// Who is woken, be it for nothing, looks again.
+		{Op: api.Jump, A: place},
+	}
+}
+
 // Change lets a cell that is one register be another one; where it isn't that register it stays, and it goes on elsewhere.
 func Change(cell, from, to, elsewhere int) []api.Ins {
 	return []api.Ins{

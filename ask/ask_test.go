@@ -73,6 +73,8 @@ func TestPiecesAreOfAPlaceAndACell(t *testing.T) {
 	for want, l := range map[string][]api.Ins{
 		"load 1 0\nsame 1 0 9\nplus 2 1 -1\nswap 3 0 1 2\nsame 3 0 0\n":   ask.Lessen(0, 0, 9),
 		"load 1 7\nsame 1 0 40\nplus 2 1 -1\nswap 3 7 1 2\nsame 3 0 30\n": ask.Lessen(30, 7, 40),
+		"load 1 0\nsame 1 0 4\nwait 0 1\njump 0\n":                        ask.AwaitNought(0, 0),
+		"load 1 7\nsame 1 0 34\nwait 7 1\njump 30\n":                      ask.AwaitNought(30, 7),
 		"swap 3 2 6 4\nsame 3 0 25\n":                                     ask.Change(2, 6, 4, 25),
 		"swap 3 0 1 2\nsame 3 0 7\n":                                      ask.Change(0, ask.Seen, ask.Is, 7),
 		"wake 0 16 -1\n":                                                  {ask.WakeAll(0)},

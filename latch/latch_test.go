@@ -7,7 +7,6 @@ import (
 	"testing"
 
 	"quadrille/api"
-	"quadrille/code"
 	"quadrille/core"
 	"quadrille/latch"
 	"quadrille/trial"
@@ -31,31 +30,21 @@ func TestFace(t *testing.T) {
 	}
 }
 
-func TestCodeOfNoneOneAndTwo(t *testing.T) {
-	for _, x := range []struct {
-		calls []api.Call
-		text  string
-	}{
-		{nil, "halt\n"},
-		{ask(), "halt\n"},
-		{ask(await), "load 1 0\nsame 1 0 4\nwait 0 1\njump 0\nsay 3 1\nhalt\n"},
-		{ask(await, down), "load 1 0\nsame 1 0 4\nwait 0 1\njump 0\nsay 3 1\n" +
-			"load 1 0\nsame 1 0 14\nplus 2 1 -1\nswap 3 0 1 2\nsame 3 0 5\ncopy 1 2\nsame 2 0 13\njump 14\nwake 0 16 -1\nsay 3 1\nhalt\n"},
+func TestCodeIsWhole(t *testing.T) {
+	for text, calls := range map[string][]api.Call{
+		"halt": nil,
+		"load 1 0; same 1 0 4; wait 0 1; jump 0; say 3 1; halt": ask(await),
+		"load 1 0; same 1 0 4; wait 0 1; jump 0; say 3 1; load 1 0; same 1 0 14; plus 2 1 -1; swap 3 0 1 2; same 3 0 5; copy 1 2; same 2 0 13; jump 14; wake 0 16 -1; say 3 1; halt": ask(await, down),
 	} {
-		p, err := latch.Code(x.calls)
-		if got, _ := code.Print(p); got != x.text || err != nil {
-			t.Errorf("%v: got %q, %v", x.calls, got, err)
+		if wrong := kind.Whole(text, calls...); wrong != "" {
+			t.Errorf("%v: %s", calls, wrong)
 		}
 	}
 }
 
 func TestCodeIsOfOneCell(t *testing.T) {
-	p, err := latch.Code(slices.Repeat(ask(down, await, down), 4))
-	if err != nil || len(p) != 101 {
-		t.Fatalf("got %d instructions, %v", len(p), err)
-	}
-	if _, err := core.New([][]api.Ins{p}, make([]uint64, 1)); err != nil {
-		t.Error(err)
+	if wrong := kind.Room(101, 1, slices.Repeat(ask(down, await, down), 4)...); wrong != "" {
+		t.Error(wrong)
 	}
 }
 
@@ -190,11 +179,7 @@ func TestNobodyIsAnsweredAheadOfNoughtOfMany(t *testing.T) {
 
 func TestWhoLetsItBeNoughtWakesAll(t *testing.T) {
 	threads := append(slices.Repeat([][]api.Call{ask(await)}, api.MaxThreads-1), ask(down, down))
-	p, err := kind.Programs(threads)
-	if err != nil {
-		t.Fatal(err)
-	}
-	c, err := core.New(p, []uint64{2})
+	c, err := kind.New(threads, 2)
 	if err != nil {
 		t.Fatal(err)
 	}

@@ -7,7 +7,6 @@ import (
 	"testing"
 
 	"quadrille/api"
-	"quadrille/code"
 	"quadrille/core"
 	"quadrille/mutex"
 	"quadrille/trial"
@@ -31,31 +30,21 @@ func TestFace(t *testing.T) {
 	}
 }
 
-func TestCodeOfNoneOneAndTwo(t *testing.T) {
-	for _, x := range []struct {
-		calls []api.Call
-		text  string
-	}{
-		{nil, "halt\n"},
-		{ask(), "halt\n"},
-		{ask(unlock), "let 5 0\nload 1 0\nswap 3 0 1 5\nsame 3 0 1\nsame 1 2 6\njump 7\nwake 0 1 -1\nsay 3 1\nhalt\n"},
-		{ask(unlock, lock), "let 5 0\nload 1 0\nswap 3 0 1 5\nsame 3 0 1\nsame 1 2 6\njump 7\nwake 0 1 -1\nsay 3 1\n" +
-			"let 5 0\nlet 6 1\nlet 4 2\nswap 3 0 5 6\nsame 3 1 22\nload 1 0\nsame 1 0 20\nsame 1 2 18\nswap 3 0 6 4\nsame 3 0 13\nwait 0 4\njump 13\nswap 3 0 5 4\nsame 3 0 13\nsay 3 5\nhalt\n"},
+func TestCodeIsWhole(t *testing.T) {
+	for text, calls := range map[string][]api.Call{
+		"halt": nil,
+		"let 5 0; load 1 0; swap 3 0 1 5; same 3 0 1; same 1 2 6; jump 7; wake 0 1 -1; say 3 1; halt": ask(unlock),
+		"let 5 0; load 1 0; swap 3 0 1 5; same 3 0 1; same 1 2 6; jump 7; wake 0 1 -1; say 3 1; let 5 0; let 6 1; let 4 2; swap 3 0 5 6; same 3 1 22; load 1 0; same 1 0 20; same 1 2 18; swap 3 0 6 4; same 3 0 13; wait 0 4; jump 13; swap 3 0 5 4; same 3 0 13; say 3 5; halt": ask(unlock, lock),
 	} {
-		p, err := mutex.Code(x.calls)
-		if got, _ := code.Print(p); got != x.text || err != nil {
-			t.Errorf("%v: got %q, %v", x.calls, got, err)
+		if wrong := kind.Whole(text, calls...); wrong != "" {
+			t.Errorf("%v: %s", calls, wrong)
 		}
 	}
 }
 
 func TestCodeIsOfOneCell(t *testing.T) {
-	p, err := mutex.Code(slices.Repeat(ask(lock, unlock), 6))
-	if err != nil || len(p) != 139 {
-		t.Fatalf("got %d instructions, %v", len(p), err)
-	}
-	if _, err := core.New([][]api.Ins{p}, make([]uint64, 1)); err != nil {
-		t.Error(err)
+	if wrong := kind.Room(139, 1, slices.Repeat(ask(lock, unlock), 6)...); wrong != "" {
+		t.Error(wrong)
 	}
 }
 
@@ -170,80 +159,49 @@ func TestOneAtATimeOfMany(t *testing.T) {
 	}
 }
 
-// start is a new machine of threads, of which nobody has locked.
-func start(t *testing.T, threads ...[]api.Call) *core.Core {
-	t.Helper()
-	p, err := kind.Programs(threads)
-	if err != nil {
-		t.Fatal(err)
-	}
-	c, err := core.New(p, []uint64{0})
-	if err != nil {
-		t.Fatal(err)
-	}
-	return c
-}
-
-// goes lets a thread go on for so many steps, and checks what the cell is then, and who sleeps.
-func goes(t *testing.T, c *core.Core, thread, steps int, state uint64, asleep ...int) {
-	t.Helper()
-	if n := c.Run(slices.Repeat([]int{thread}, steps)); n != steps {
-		t.Fatalf("step %d: thread %d did %d steps, not %d", c.Steps(), thread, n, steps)
-	}
-	var l []int
-	for k := range c.Threads() {
-		if _, cell, err := c.At(k); err == nil && cell == 0 {
-			l = append(l, k)
-		}
-	}
-	if got := c.Cells()[0]; got != state || !slices.Equal(l, asleep) {
-		t.Fatalf("step %d: the cell is %d, not %d, and %v sleep, not %v", c.Steps(), got, state, l, asleep)
-	}
-}
-
 func TestWhoIsAloneNeitherLooksNorWakes(t *testing.T) {
-	c := start(t, ask(lock, unlock, unlock))
-	goes(t, c, 0, 6, 1)
-	goes(t, c, 0, 7, 0)
-	// What is free is unlocked as well.
-	goes(t, c, 0, 8, 0)
-	if got := fmt.Sprint(c.Events()); got != "[{6 3 0 0} {13 3 0 1} {20 3 0 0}]" {
-		t.Errorf("got %s", got)
+	if wrong := kind.Walk([][]api.Call{ask(lock, unlock, unlock)}, []uint64{0},
+		trial.Leg{Thread: 0, Steps: 6, Cells: "1", Said: "0"},
+		trial.Leg{Thread: 0, Steps: 7, Cells: "0", Said: "1"},
+		// What is free is unlocked as well.
+		trial.Leg{Thread: 0, Steps: 8, Cells: "0", Said: "0"},
+	); wrong != "" {
+		t.Error(wrong)
 	}
 }
 
 func TestUnlockWakesWhoFellAsleepFirst(t *testing.T) {
 	both := ask(lock, unlock)
-	c := start(t, both, both, both)
-	goes(t, c, 1, 6, 1)
-	// The first one that waits tells so, and the other one finds that told.
-	goes(t, c, 2, 11, 2, 2)
-	goes(t, c, 0, 9, 2, 0, 2)
-	goes(t, c, 1, 5, 0, 0, 2)
-	goes(t, c, 1, 1, 0, 0)
-	goes(t, c, 1, 2, 0, 0)
-	// Who was woken lets it be awaited, and so wakes the other one.
-	goes(t, c, 2, 6, 2, 0)
-	goes(t, c, 2, 8, 0)
-	goes(t, c, 0, 6, 2)
-	goes(t, c, 0, 8, 0)
-	if got := fmt.Sprint(c.Events()); got != "[{6 3 1 0} {33 3 1 2} {40 3 2 0} {47 3 2 2} {54 3 0 0} {61 3 0 2}]" {
-		t.Errorf("got %s", got)
+	if wrong := kind.Walk([][]api.Call{both, both, both}, []uint64{0},
+		trial.Leg{Thread: 1, Steps: 6, Cells: "1", Said: "0"},
+		// The first one that waits tells so, and the other one finds that told.
+		trial.Leg{Thread: 2, Steps: 11, Cells: "2", Asleep: "2"},
+		trial.Leg{Thread: 0, Steps: 9, Cells: "2", Asleep: "0 2"},
+		trial.Leg{Thread: 1, Steps: 5, Cells: "0", Asleep: "0 2"},
+		trial.Leg{Thread: 1, Steps: 1, Cells: "0", Asleep: "0"},
+		trial.Leg{Thread: 1, Steps: 2, Cells: "0", Asleep: "0", Said: "2"},
+		// Who was woken lets it be awaited, and so wakes the other one.
+		trial.Leg{Thread: 2, Steps: 6, Cells: "2", Asleep: "0", Said: "0"},
+		trial.Leg{Thread: 2, Steps: 8, Cells: "0", Said: "2"},
+		trial.Leg{Thread: 0, Steps: 6, Cells: "2", Said: "0"},
+		trial.Leg{Thread: 0, Steps: 8, Cells: "0", Said: "2"},
+	); wrong != "" {
+		t.Error(wrong)
 	}
 }
 
 func TestWhoIsFasterThanOneWhoIsWokenLocks(t *testing.T) {
 	both := ask(lock, unlock)
-	c := start(t, slices.Repeat(both, 2), both)
-	goes(t, c, 0, 6, 1)
-	goes(t, c, 1, 11, 2, 1)
-	goes(t, c, 0, 7, 0)
-	goes(t, c, 0, 6, 1)
-	goes(t, c, 1, 7, 2, 1)
-	goes(t, c, 0, 8, 0)
-	goes(t, c, 1, 6, 2)
-	goes(t, c, 1, 8, 0)
-	if all, _ := c.Ends(); !all {
-		t.Error("not all are at their ends")
+	if wrong := kind.Walk([][]api.Call{slices.Repeat(both, 2), both}, []uint64{0},
+		trial.Leg{Thread: 0, Steps: 6, Cells: "1", Said: "0"},
+		trial.Leg{Thread: 1, Steps: 11, Cells: "2", Asleep: "1"},
+		trial.Leg{Thread: 0, Steps: 7, Cells: "0", Said: "2"},
+		trial.Leg{Thread: 0, Steps: 6, Cells: "1", Said: "0"},
+		trial.Leg{Thread: 1, Steps: 7, Cells: "2", Asleep: "1"},
+		trial.Leg{Thread: 0, Steps: 8, Cells: "0", Said: "2"},
+		trial.Leg{Thread: 1, Steps: 6, Cells: "2", Said: "0"},
+		trial.Leg{Thread: 1, Steps: 8, Cells: "0", Said: "2"},
+	); wrong != "" {
+		t.Error(wrong)
 	}
 }

@@ -7,7 +7,6 @@ import (
 	"testing"
 
 	"quadrille/api"
-	"quadrille/code"
 	"quadrille/core"
 	"quadrille/sema"
 	"quadrille/trial"
@@ -31,31 +30,21 @@ func TestFace(t *testing.T) {
 	}
 }
 
-func TestCodeOfNoneOneAndTwo(t *testing.T) {
-	for _, x := range []struct {
-		calls []api.Call
-		text  string
-	}{
-		{nil, "halt\n"},
-		{ask(), "halt\n"},
-		{ask(give), "fetch 1 0 1\nplus 2 1 1\nwake 0 1 -1\nsay 3 2\nhalt\n"},
-		{ask(give, take), "fetch 1 0 1\nplus 2 1 1\nwake 0 1 -1\nsay 3 2\n" +
-			"load 1 0\nsame 1 0 10\nplus 2 1 -1\nswap 3 0 1 2\nsame 3 0 4\njump 12\nwait 0 1\njump 4\nsay 3 2\nhalt\n"},
+func TestCodeIsWhole(t *testing.T) {
+	for text, calls := range map[string][]api.Call{
+		"halt": nil,
+		"fetch 1 0 1; plus 2 1 1; wake 0 1 -1; say 3 2; halt": ask(give),
+		"fetch 1 0 1; plus 2 1 1; wake 0 1 -1; say 3 2; load 1 0; same 1 0 10; plus 2 1 -1; swap 3 0 1 2; same 3 0 4; jump 12; wait 0 1; jump 4; say 3 2; halt": ask(give, take),
 	} {
-		p, err := sema.Code(x.calls)
-		if got, _ := code.Print(p); got != x.text || err != nil {
-			t.Errorf("%v: got %q, %v", x.calls, got, err)
+		if wrong := kind.Whole(text, calls...); wrong != "" {
+			t.Errorf("%v: %s", calls, wrong)
 		}
 	}
 }
 
 func TestCodeIsOfOneCell(t *testing.T) {
-	p, err := sema.Code(slices.Repeat(ask(take, give), 6))
-	if err != nil || len(p) != 79 {
-		t.Fatalf("got %d instructions, %v", len(p), err)
-	}
-	if _, err := core.New([][]api.Ins{p}, make([]uint64, 1)); err != nil {
-		t.Error(err)
+	if wrong := kind.Room(79, 1, slices.Repeat(ask(take, give), 6)...); wrong != "" {
+		t.Error(wrong)
 	}
 }
 
@@ -169,11 +158,7 @@ func TestNeverMoreHaveTakenThanMayOfMany(t *testing.T) {
 }
 
 func TestGiveWakesWhoFellAsleepFirst(t *testing.T) {
-	p, err := kind.Programs([][]api.Call{ask(take), ask(take), ask(take), ask(give, give)})
-	if err != nil {
-		t.Fatal(err)
-	}
-	c, err := core.New(p, []uint64{0})
+	c, err := kind.New([][]api.Call{ask(take), ask(take), ask(take), ask(give, give)}, 0)
 	if err != nil {
 		t.Fatal(err)
 	}
@@ -199,11 +184,7 @@ func TestGiveWakesWhoFellAsleepFirst(t *testing.T) {
 }
 
 func TestWhoIsFasterThanOneWhoIsWokenTakes(t *testing.T) {
-	p, err := kind.Programs([][]api.Call{ask(take), ask(take, give), ask(give)})
-	if err != nil {
-		t.Fatal(err)
-	}
-	c, err := core.New(p, []uint64{0})
+	c, err := kind.New([][]api.Call{ask(take), ask(take, give), ask(give)}, 0)
 	if err != nil {
 		t.Fatal(err)
 	}

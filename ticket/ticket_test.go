@@ -7,7 +7,6 @@ import (
 	"testing"
 
 	"quadrille/api"
-	"quadrille/code"
 	"quadrille/core"
 	"quadrille/ticket"
 	"quadrille/trial"
@@ -31,33 +30,21 @@ func TestFace(t *testing.T) {
 	}
 }
 
-func TestCodeOfNoneOneAndTwo(t *testing.T) {
-	for _, x := range []struct {
-		calls []api.Call
-		text  string
-	}{
-		{nil, "halt\n"},
-		{ask(), "halt\n"},
-		{ask(lock), "fetch 1 0 1\nload 2 1\nequal 2 1 5\nwait 1 2\njump 1\nsay 3 1\nhalt\n"},
-		{ask(unlock, lock), "fetch 1 1 1\nwake 1 16 -1\nsay 3 1\nfetch 1 0 1\nload 2 1\nequal 2 1 8\nwait 1 2\njump 4\nsay 3 1\nhalt\n"},
+func TestCodeIsWhole(t *testing.T) {
+	for text, calls := range map[string][]api.Call{
+		"halt": nil,
+		"fetch 1 0 1; load 2 1; equal 2 1 5; wait 1 2; jump 1; say 3 1; halt":                                     ask(lock),
+		"fetch 1 1 1; wake 1 16 -1; say 3 1; fetch 1 0 1; load 2 1; equal 2 1 8; wait 1 2; jump 4; say 3 1; halt": ask(unlock, lock),
 	} {
-		p, err := ticket.Code(x.calls)
-		if got, _ := code.Print(p); got != x.text || err != nil {
-			t.Errorf("%v: got %q, %v", x.calls, got, err)
+		if wrong := kind.Whole(text, calls...); wrong != "" {
+			t.Errorf("%v: %s", calls, wrong)
 		}
 	}
 }
 
 func TestCodeIsOfTwoCells(t *testing.T) {
-	p, err := ticket.Code(slices.Repeat(ask(lock, unlock), 6))
-	if err != nil || len(p) != 55 {
-		t.Fatalf("got %d instructions, %v", len(p), err)
-	}
-	if _, err := core.New([][]api.Ins{p}, make([]uint64, 2)); err != nil {
-		t.Error(err)
-	}
-	if _, err := core.New([][]api.Ins{p}, make([]uint64, 1)); err == nil {
-		t.Error("one cell does, too")
+	if wrong := kind.Room(55, 2, slices.Repeat(ask(lock, unlock), 6)...); wrong != "" {
+		t.Error(wrong)
 	}
 }
 
@@ -218,11 +205,7 @@ func TestWhoCameFirstIsFirstOfMany(t *testing.T) {
 
 func TestWhoCameFirstIsFirstWhoeverIsFaster(t *testing.T) {
 	both := ask(lock, unlock)
-	p, err := kind.Programs([][]api.Call{both, both, both})
-	if err != nil {
-		t.Fatal(err)
-	}
-	c, err := core.New(p, []uint64{0, 0})
+	c, err := kind.New([][]api.Call{both, both, both}, 0, 0)
 	if err != nil {
 		t.Fatal(err)
 	}

@@ -8,6 +8,8 @@ import (
 	"strings"
 
 	"quadrille/api"
+	"quadrille/code"
+	"quadrille/core"
 )
 
 // Calls is how a layer makes programs that ask for calls, and how the document writes a call's instructions: with "; " between, and p for where they begin; "" is no call.
@@ -161,6 +163,42 @@ func (k Calls) Programs(lists [][]api.Call) ([][]api.Ins, error) {
 		programs = append(programs, p)
 	}
 	return programs, nil
+}
+
+// New is a machine of threads that ask for these lists, on cells that are so at first.
+func (k Calls) New(lists [][]api.Call, cells ...uint64) (*core.Core, error) {
+	p, err := k.Programs(lists)
+	if err != nil {
+		return nil, err
+	}
+	return core.New(p, cells)
+}
+
+// Whole looks whether the program of a list is just that text, with "; " between its instructions. It answers what is wrong; "" is nothing.
+func (k Calls) Whole(text string, l ...api.Call) string {
+	p, err := k.Code(l)
+	if err != nil {
+		return err.Error()
+	}
+	return differs(p, text+"; ")
+}
+
+// Room looks whether the program of a list has so many instructions, and so many cells do for it, and no fewer. It answers what is wrong; "" is nothing.
+func (k Calls) Room(instructions, cells int, l ...api.Call) string {
+	p, err := k.Code(l)
+	if err != nil {
+		return err.Error()
+	}
+	if len(p) != instructions {
+		return strconv.Itoa(len(p)) + " instructions"
+	}
+	if err := code.Right(p, cells); err != nil {
+		return err.Error()
+	}
+	if code.Right(p, cells-1) == nil {
+		return "fewer cells do"
+	}
+	return ""
 }
 
 // placeOf is an error's place; -1: it has none.

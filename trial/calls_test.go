@@ -189,3 +189,70 @@ func TestProgramsAreOfEachList(t *testing.T) {
 		t.Errorf("no call: got %v, %v", p, err)
 	}
 }
+
+func TestNewIsOfEachListAndTheCells(t *testing.T) {
+	k := trial.Calls{Code: made, Text: text}
+	c, err := k.New([][]api.Call{{once}, nil, {trade}}, 0, 7)
+	if err != nil || c.Threads() != 3 || !slices.Equal(c.Cells(), []uint64{0, 7}) {
+		t.Fatalf("got %v, %v", c, err)
+	}
+	if wrong := trial.Walk(c, trial.Leg{Thread: 0, Steps: 1, Cells: "0 7", Asleep: "0"}, trial.Leg{Thread: 1, Steps: 1, Cells: "0 7", Asleep: "0"}); wrong != "" {
+		t.Error(wrong)
+	}
+	if c, err := k.New([][]api.Call{{once}, {{}}}, 0); c != nil || api.Tell(err) != api.ErrArg {
+		t.Errorf("no call: got %v, %v", c, err)
+	}
+	if c, err := k.New([][]api.Call{{once}}); c != nil || api.Tell(err) != api.ErrRange {
+		t.Errorf("no cell: got %v, %v", c, err)
+	}
+}
+
+func TestWholeIsOfAllInstructions(t *testing.T) {
+	k := trial.Calls{Code: made, Text: text}
+	whole := "wait 0 0; same 1 0 2; plus 1 1 1; say 3 1; let 3 1000; same 3 7 4; jump 7; say 3 3; halt"
+	if wrong := k.Whole(whole, once, trade); wrong != "" {
+		t.Error(wrong)
+	}
+	if wrong := k.Whole("halt"); wrong != "" {
+		t.Error(wrong)
+	}
+	for _, x := range []struct {
+		text  string
+		calls []api.Call
+		want  string
+	}{
+		{whole, []api.Call{trade, once}, "got\n"},
+		{whole, []api.Call{once}, "got\n"},
+		{whole, []api.Call{once, trade, trade}, "got\n"},
+		{whole, nil, "got\n"},
+		{whole + "; halt", []api.Call{once, trade}, "got\n"},
+		{"halt;", nil, "no program: "},
+		{"", nil, "no program: "},
+		{whole, []api.Call{{}}, api.ErrArg.Error()},
+	} {
+		if got := k.Whole(x.text, x.calls...); !strings.HasPrefix(got, x.want) || got == "" {
+			t.Errorf("%q, %v: got %q, want %q", x.text, x.calls, got, x.want)
+		}
+	}
+}
+
+func TestRoomIsJustWhatIsNeeded(t *testing.T) {
+	k := trial.Calls{Code: made, Text: text}
+	for _, x := range []struct {
+		instructions, cells int
+		calls               []api.Call
+		want                string
+	}{
+		{5, 1, []api.Call{once}, ""},
+		{9, 1, []api.Call{once, once}, ""},
+		{9, 1, []api.Call{once}, "5 instructions"},
+		{5, 0, []api.Call{once}, api.ErrRange.Error()},
+		{5, 2, []api.Call{once}, "fewer cells do"},
+		{1, 1, nil, "fewer cells do"},
+		{5, 1, []api.Call{{}}, api.ErrArg.Error()},
+	} {
+		if got := k.Room(x.instructions, x.cells, x.calls...); got != x.want {
+			t.Errorf("%v: got %q, want %q", x, got, x.want)
+		}
+	}
+}
